@@ -324,3 +324,32 @@ func TestP4_8Walks(t *testing.T) {
 		t.Errorf("the walks met %v", met)
 	}
 }
+
+// Every file that the index names keeps its bytes: through Appends that are taken, refused and cut, crashes, and Opens with other sizes.
+func TestP4_12OnlyMore(t *testing.T) {
+	r := source()
+	d, l := begun(t, 3000, 64)
+	for range 300 {
+		before := d.State()
+		named := strings.Count(data(d, "log"), "\n") - 1
+		if r.IntN(4) == 0 {
+			want(t, "Fuse", d.Fuse(r.IntN(9)), api.OK)
+		}
+		l.Append(anyBytes(r, r.IntN(90)))
+		for _, f := range before.Files {
+			no := numberOf(f.Name)
+			if no >= 1 && no <= named && !strings.HasPrefix(data(d, f.Name), string(f.Data)) {
+				t.Fatalf("%s was changed: %q, behind it %q", f.Name, f.Data, data(d, f.Name))
+			}
+		}
+		if d.Down() { // whatever Append answered
+			d.Crash([]int{r.IntN(12)})
+			was := shown(d)
+			l = opened(t, d, 64+r.IntN(100))
+			same(t, "Open: the disk", shown(d), was)
+		}
+	}
+	if n := len(l.Segments()); n < 5 {
+		t.Errorf("%d segments", n)
+	}
+}

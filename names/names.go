@@ -7,15 +7,15 @@ import (
 	"daybook/api"
 )
 
-// between stands between two parts of an account's name.
-const between = ":"
+// Between stands between two parts of an account's name.
+const Between = ":"
 
 // IsAccount tells whether a text is an account's name.
 func IsAccount(s string) bool {
-	if strings.Count(s, between) >= api.MaxDepth {
+	if strings.Count(s, Between) >= api.MaxDepth {
 		return false
 	}
-	for _, part := range strings.Split(s, between) {
+	for _, part := range strings.Split(s, Between) {
 		if !isPart(part) {
 			return false
 		}
@@ -24,7 +24,7 @@ func IsAccount(s string) bool {
 }
 
 // IsRoot tells whether an account's name is a root's.
-func IsRoot(name string) bool { return !strings.Contains(name, between) }
+func IsRoot(name string) bool { return !strings.Contains(name, Between) }
 
 // IsKey tells whether a text is a key.
 func IsKey(s string) bool {

@@ -1,12 +1,9 @@
 package event
 
-import "daybook/api"
-
-// base is that of a number's digits: a byte below it is the last one.
-const base = 128
-
-// lastPlace is where a number's tenth digit stands; of 64 bits one is left there.
-const lastPlace = 63
+import (
+	"daybook/api"
+	"daybook/number"
+)
 
 // encoded is a valid event's bytes.
 func encoded(e api.Event) []byte {
@@ -43,13 +40,7 @@ func must(so bool) {
 // writer puts each field behind those ahead of it.
 type writer struct{ b []byte }
 
-func (w *writer) number(n uint64) {
-	for n >= base {
-		w.b = append(w.b, byte(n%base+base))
-		n /= base
-	}
-	w.b = append(w.b, byte(n))
-}
+func (w *writer) number(n uint64) { w.b = number.Append(w.b, n) }
 
 func (w *writer) text(s *string) {
 	w.number(uint64(len(*s)))
@@ -62,14 +53,7 @@ func (w *writer) rootType(n *int)   { w.b = append(w.b, byte(*n)) }
 func (w *writer) account(s *string) { w.text(s) }
 func (w *writer) key(s *string)     { w.text(s) }
 func (w *writer) memo(s *string)    { w.text(s) }
-
-func (w *writer) amount(a *int64) {
-	if *a < 0 {
-		w.number(uint64(-*a)*2 - 1)
-	} else {
-		w.number(uint64(*a) * 2)
-	}
-}
+func (w *writer) amount(a *int64)   { w.number(number.OfInt(*a)) }
 
 func (w *writer) lines(l *[]api.Line) {
 	w.b = append(w.b, byte(len(*l)))
@@ -91,16 +75,10 @@ func (r *reader) next() byte {
 }
 
 func (r *reader) number() uint64 {
-	n := uint64(0)
-	for place := 0; ; place += 7 {
-		digit := r.next()
-		must(place < lastPlace || digit <= 1) // else it would be above 2^64 - 1
-		n += uint64(digit%base) << place
-		if digit < base {
-			must(digit > 0 || place == 0) // else it would not be the one form
-			return n
-		}
-	}
+	n, size := number.First(r.left)
+	must(size > 0)
+	r.left = r.left[size:]
+	return n
 }
 
 func (r *reader) text(s *string) {
@@ -111,9 +89,9 @@ func (r *reader) text(s *string) {
 }
 
 func (r *reader) day(n *int) {
-	number := r.number()
-	must(number <= api.MaxDay) // else it might not fit an int
-	*n = int(number)
+	told := r.number()
+	must(told <= api.MaxDay) // else it might not fit an int
+	*n = int(told)
 }
 
 func (r *reader) due(n *int)        { r.day(n) }
@@ -121,14 +99,7 @@ func (r *reader) rootType(n *int)   { *n = int(r.next()) }
 func (r *reader) account(s *string) { r.text(s) }
 func (r *reader) key(s *string)     { r.text(s) }
 func (r *reader) memo(s *string)    { r.text(s) }
-
-func (r *reader) amount(a *int64) {
-	number := r.number()
-	*a = int64(number / 2)
-	if number%2 == 1 {
-		*a = -*a - 1
-	}
-}
+func (r *reader) amount(a *int64)   { *a = number.ToInt(r.number()) }
 
 func (r *reader) lines(l *[]api.Line) {
 	for range int(r.next()) {

@@ -5,6 +5,7 @@ import (
 	"strings"
 
 	"daybook/api"
+	"daybook/cut"
 	"daybook/day"
 	"daybook/money"
 )
@@ -25,17 +26,6 @@ func typeWords() []string {
 // dueWord stands ahead of an invoice's second day.
 const dueWord = "due"
 
-// The bytes that are no word's.
-const (
-	blanks = " \t"
-	comma  = ","
-	quote  = `"`
-	noWord = blanks + comma + quote
-)
-
-// tagMark is the first byte of a tag's word.
-const tagMark = "#"
-
 // printed is a valid event's line.
 func printed(e api.Event, digits int) string {
 	p := &printer{[]string{kindWords()[e.Kind]}, digits}
@@ -45,10 +35,11 @@ func printed(e api.Event, digits int) string {
 
 // parsed is the valid event whose line s is; it gives up, if it is none's.
 func parsed(s string, digits int) api.Event {
-	// A copy, so that an event's texts don't hold fast all that the line was cut from.
-	p := &parser{strings.Clone(s), digits}
+	left, whole := cut.Line(s)
+	must(whole)
+	p := &parser{left, digits}
 	e := filled(p.oneOf(kindWords()), p)
-	must(p.atEnd())
+	must(len(p.left) == 0)
 	return e
 }
 
@@ -81,7 +72,7 @@ func (p *printer) key(s *string)     { p.put(*s) }
 
 func (p *printer) memo(s *string) {
 	if *s != "" {
-		p.put(quote + *s + quote)
+		p.put(cut.Quote + *s + cut.Quote)
 	}
 }
 
@@ -93,55 +84,34 @@ func (p *printer) amount(a *int64) {
 func (p *printer) lines(l *[]api.Line) {
 	for i, line := range *l {
 		if i > 0 {
-			p.words[len(p.words)-1] += comma
+			p.words[len(p.words)-1] += cut.Comma
 		}
 		p.account(&line.Account)
 		p.amount(&line.Amount)
 		if line.Tag != "" {
-			p.put(tagMark + line.Tag)
+			p.put(cut.TagMark + line.Tag)
 		}
 	}
 }
 
-// parser takes each field's word from the beginning of what is left.
+// parser takes each field's piece from the beginning of those that are left.
 type parser struct {
-	left   string
+	left   []cut.Piece
 	digits int
 }
 
-func (p *parser) skipBlanks() { p.left = strings.TrimLeft(p.left, blanks) }
+// comes tells whether a piece of a sort comes next.
+func (p *parser) comes(sort cut.Sort) bool { return len(p.left) > 0 && p.left[0].Sort == sort }
 
-func (p *parser) atEnd() bool {
-	p.skipBlanks()
-	return p.left == ""
+// take passes over the next piece, which must be of a sort.
+func (p *parser) take(sort cut.Sort) string {
+	must(p.comes(sort))
+	text := p.left[0].Text
+	p.left = p.left[1:]
+	return text
 }
 
-// comes tells whether what comes next begins so.
-func (p *parser) comes(beginning string) bool {
-	p.skipBlanks()
-	return strings.HasPrefix(p.left, beginning)
-}
-
-// take passes over a mark, if it comes next.
-func (p *parser) take(mark string) bool {
-	there := p.comes(mark)
-	if there {
-		p.left = p.left[len(mark):]
-	}
-	return there
-}
-
-func (p *parser) word() string {
-	p.skipBlanks()
-	end := strings.IndexAny(p.left, noWord)
-	if end < 0 {
-		end = len(p.left)
-	}
-	must(end > 0)
-	word := p.left[:end]
-	p.left = p.left[end:]
-	return word
-}
+func (p *parser) word() string { return p.take(cut.WordSort) }
 
 // oneOf is the number of the next word among some.
 func (p *parser) oneOf(words []string) int {
@@ -162,7 +132,7 @@ func (p *parser) due(n *int) {
 }
 
 func (p *parser) rootType(n *int) {
-	if !p.atEnd() {
+	if len(p.left) > 0 {
 		*n = p.oneOf(typeWords())
 	}
 }
@@ -171,10 +141,8 @@ func (p *parser) account(s *string) { *s = p.word() }
 func (p *parser) key(s *string)     { *s = p.word() }
 
 func (p *parser) memo(s *string) {
-	if p.take(quote) {
-		memo, left, ended := strings.Cut(p.left, quote)
-		must(ended)
-		*s, p.left = memo, left
+	if p.comes(cut.MemoSort) {
+		*s = p.take(cut.MemoSort)
 	}
 }
 
@@ -185,18 +153,25 @@ func (p *parser) amount(a *int64) {
 }
 
 func (p *parser) tag(s *string) {
-	if p.comes(tagMark) {
-		*s = strings.TrimPrefix(p.word(), tagMark)
-		must(*s != "") // the empty tag has no word
+	if p.comes(cut.WordSort) {
+		tag, marked := strings.CutPrefix(p.word(), cut.TagMark)
+		must(marked && tag != "") // the empty tag has no word
+		*s = tag
 	}
 }
 
 func (p *parser) lines(l *[]api.Line) {
-	for more := true; more; more = p.take(comma) {
-		var line api.Line
-		p.account(&line.Account)
-		p.amount(&line.Amount)
-		p.tag(&line.Tag)
-		*l = append(*l, line)
+	p.line(l)
+	for p.comes(cut.CommaSort) {
+		p.take(cut.CommaSort)
+		p.line(l)
 	}
+}
+
+func (p *parser) line(l *[]api.Line) {
+	var line api.Line
+	p.account(&line.Account)
+	p.amount(&line.Amount)
+	p.tag(&line.Tag)
+	*l = append(*l, line)
 }

@@ -1,0 +1,102 @@
+package script
+
+import (
+	"strings"
+
+	"daybook/api"
+	"daybook/day"
+)
+
+// The sorts of words that a form wants.
+const (
+	anyWord = 'w'
+	aNumber = 'n'
+	aDate   = 'd'
+	aSheet  = 's' // what is wanted behind it hangs on which one it is
+)
+
+const (
+	firstWord  = "daybook"
+	sheetWord  = "sheet"
+	mostDigits = 10 // of a number
+	mostKeeps  = 64 // numbers of a crash
+)
+
+// form is how a line goes on behind its first word.
+type form struct {
+	word  string
+	wants string // the sorts of the words that must follow
+	more  int    // so many numbers may follow them
+	text  bool   // all that follows is a TEXT
+}
+
+// forms is a row for each command, and one for each sheet, under both of its words.
+var forms = [...]form{
+	{word: "submit", text: true},
+	{word: "len"},
+	{word: "event", wants: "n"},
+	{word: "trial"},
+	{word: "rollup", wants: "w"},
+	{word: "daily", wants: "wdd"},
+	{word: "aged", wants: "wd"},
+	{word: "open", wants: "wd"},
+	{word: "accounts"},
+	{word: "left", wants: "w"},
+	{word: "query", text: true},
+	{word: "export"},
+	{word: importWord},
+	{word: sheetWord, wants: "s"},
+	{word: "sheet trial"},
+	{word: "sheet tree"},
+	{word: "sheet income", wants: "dd"},
+	{word: "sheet position", wants: "d"},
+	{word: "sheet statement", wants: "wd"},
+	{word: "snapshot"},
+	{word: "trim", wants: "n"},
+	{word: "rebuild", wants: "n"},
+	{word: "status"},
+	{word: "fuse", wants: "n"},
+	{word: "free"},
+	{word: "files"},
+	{word: "crash", more: mostKeeps},
+	{word: "reopen"},
+	{word: "lose", wants: "n"},
+	{word: "turn", wants: "nnn"},
+}
+
+// formOf is the form of a command, or of a sheet; false, if there is none of that word.
+func formOf(word string) (form, bool) {
+	for _, f := range forms {
+		if f.word == word {
+			return f, true
+		}
+	}
+	return form{}, false
+}
+
+// sheetOf is the form of a sheet.
+func sheetOf(word string) (form, bool) { return formOf(sheetWord + blank + word) }
+
+// fits tells whether a word is of a sort.
+func fits(word string, sort byte) bool {
+	switch sort {
+	case aNumber:
+		return isNumber(word)
+	case aDate:
+		_, why := day.Parse(word)
+		return why == api.OK
+	case aSheet:
+		_, is := sheetOf(word)
+		return is
+	}
+	return true
+}
+
+// isNumber tells whether a word is a number in its one form.
+func isNumber(word string) bool {
+	digits := strings.TrimPrefix(word, "-")
+	if digits == "" || len(digits) > mostDigits || strings.Trim(digits, "0123456789") != "" {
+		return false
+	}
+	return word == "0" || digits[0] != '0'
+}

@@ -1,10 +1,9 @@
 package script
 
 import (
-	"strings"
-
 	"daybook/api"
 	"daybook/day"
+	"daybook/word"
 )
 
 // The sorts of words that a form wants.
@@ -16,10 +15,9 @@ const (
 )
 
 const (
-	firstWord  = "daybook"
-	sheetWord  = "sheet"
-	mostDigits = 10 // of a number
-	mostKeeps  = 64 // numbers of a crash
+	firstWord = "daybook"
+	sheetWord = "sheet"
+	mostKeeps = 64 // numbers of a crash
 )
 
 // form is how a line goes on behind its first word.
@@ -78,25 +76,16 @@ func formOf(word string) (form, bool) {
 func sheetOf(word string) (form, bool) { return formOf(sheetWord + blank + word) }
 
 // fits tells whether a word is of a sort.
-func fits(word string, sort byte) bool {
+func fits(w string, sort byte) bool {
 	switch sort {
 	case aNumber:
-		return isNumber(word)
+		return word.IsNumber(w)
 	case aDate:
-		_, why := day.Parse(word)
+		_, why := day.Parse(w)
 		return why == api.OK
 	case aSheet:
-		_, is := sheetOf(word)
+		_, is := sheetOf(w)
 		return is
 	}
 	return true
-}
-
-// isNumber tells whether a word is a number in its one form.
-func isNumber(word string) bool {
-	digits := strings.TrimPrefix(word, "-")
-	if digits == "" || len(digits) > mostDigits || strings.Trim(digits, "0123456789") != "" {
-		return false
-	}
-	return word == "0" || digits[0] != '0'
 }

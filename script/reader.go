@@ -4,6 +4,7 @@ import (
 	"strings"
 
 	"daybook/api"
+	"daybook/word"
 )
 
 // reader takes the words of a line, from the left.
@@ -56,11 +57,11 @@ func (r *reader) goOn(f form) bool {
 		}
 	}
 	for range f.more {
-		word := r.next()
-		if !isNumber(word) {
+		keep := r.next()
+		if !word.IsNumber(keep) {
 			break
 		}
-		r.take(word)
+		r.take(keep)
 	}
 	return true
 }

@@ -102,7 +102,9 @@ func TestP20_1_Order(t *testing.T) {
 			}
 		}
 	}
-	tells(t, []string{"daybook -1 64 2"}, []string{"1 ok 5"}, 2, 1) // and 4
+	tells(t, []string{"daybook -1 64 2"}, []string{"1 ok 5"}, 2, 1)                                                // and 4
+	tells(t, append(slices.Clone(up), post), []string{"1 ok 0", "2 ok 1", "3 ok 7"}, 3, 3)                         // and 6
+	tells(t, append(slices.Clone(up), post, "reopen"), []string{"1 ok 0", "2 ok 1", "3 error 34", "4 ok 3"}, 4, 4) // and 6
 	for i := 2; i <= 13; i++ {
 		if !met[fmt.Sprint(1, " ", i)] {
 			t.Errorf("no answer has rule 1 ahead of %d", i)
